@@ -7,7 +7,7 @@ import (
 	"outlaw/api"
 )
 
-// next are the events that may come next; the smallest is first.
+// next are the events that may come next, as a heap: the smallest is first.
 type next []api.Event
 
 func (n next) Len() int { return len(n) }
