@@ -5,6 +5,7 @@ import (
 	"math/rand"
 	"slices"
 	"strconv"
+	"strings"
 	"testing"
 
 	"outlaw/api"
@@ -136,7 +137,7 @@ func TestP28_1Put(t *testing.T) {
 	}
 }
 
-func TestP28_1Send(t *testing.T) {
+func TestP28_1AndP28_2Send(t *testing.T) {
 	h := made(t, begun()...)
 	for _, txn := range []int64{0, -1, math.MinInt64} {
 		if e := h.Send(txn, ban(eve)); e != api.ErrArg {
@@ -170,6 +171,43 @@ func TestP28_1Send(t *testing.T) {
 	}
 	if e := h.Events(room); e[len(e)-1].ID != "$j" || !slices.Equal(dag.Heads(e), []string{"$h9223372036854775807"}) {
 		t.Error(dag.Heads(e))
+	}
+}
+
+func TestP28_2InOrder(t *testing.T) {
+	h := made(t, begun()...)
+	txns := []int64{9, 2, 30, 4}
+	var want []api.Input
+	for _, txn := range txns {
+		h.Send(txn, ban("@u"+strconv.FormatInt(txn, 10)+":x"))
+		want = append(want, reply(txn, true))
+	}
+	echoes := h.Echoes()
+	if got := h.Replies(); !slices.Equal(got, want) || len(echoes) != 4 || !slices.Equal(h.Done(), []int64{2, 4, 9, 30}) {
+		t.Error(got, len(echoes), h.Done())
+	}
+	for i, s := range echoes {
+		e, err := event.Read(s)
+		if err != api.OK || e.ID != "$h"+strconv.FormatInt(txns[i], 10) || e.Key != "@u"+strconv.FormatInt(txns[i], 10)+":x" {
+			t.Error("an echo", i, e, err)
+		}
+		if a, is := h.Action(txns[i]); !is || a != ban(e.Key) {
+			t.Error("Action", a, is)
+		}
+	}
+	for _, txn := range []int64{0, 1, -9, 5} {
+		if a, is := h.Action(txn); is || a != (api.Action{}) {
+			t.Error("what was not done", txn, a)
+		}
+	}
+	events := h.Events(room)
+	if len(events) != 7 || !slices.IsSortedFunc(events, func(a, b api.Event) int { return strings.Compare(a.ID, b.ID) }) {
+		t.Error(events)
+	}
+	h.Send(9, ban(eve))
+	h.Send(50, ban(eve))
+	if got := h.Echoes(); len(got) != 1 || len(h.Echoes()) != 0 || !slices.Equal(h.Replies(), []api.Input{reply(9, true), reply(50, true)}) || len(h.Replies()) != 0 {
+		t.Error("what was returned is not returned again", got)
 	}
 }
 
