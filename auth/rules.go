@@ -11,10 +11,10 @@ import (
 	"outlaw/power"
 )
 
-// What events are whose type the document does not name; no type is so.
+// What stands for the types that have no rules of their own.
 const (
-	anyState   = "\xffstate"
-	anyMessage = "\xffmessage"
+	anyState   = "state"
+	anyMessage = "message"
 )
 
 // A trial is an event before the state that it meets.
