@@ -84,7 +84,7 @@ func TestP3_1CanonSharesNothing(t *testing.T) {
 	if !json.Same(v, want) {
 		t.Error("the canonical form shares memory with the value")
 	}
-	if deep := nested(1 << 20); !json.Same(canon.Canon(deep), deep) {
+	if deep := nested(1 << 18); !json.Same(canon.Canon(deep), deep) {
 		t.Error("a deep value")
 	}
 }

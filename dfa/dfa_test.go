@@ -254,18 +254,11 @@ func TestP9_2New(t *testing.T) {
 			t.Errorf("%d: New(%.20q, %d): %v, %d states, Full %v", i, x.p, x.most, e, a.States(), a.Full())
 		}
 	}
-	good, _ := dfa.New("*", false, 5)
-	full, _ := dfa.New("ab", false, 1)
-	for i, a := range []*dfa.Auto{nil, {}, copied(good), copied(full)} {
+	for i, a := range []*dfa.Auto{nil, {}} {
 		if a.Match("") || a.Match("ab") || a.Full() || a.States() != 0 {
 			t.Errorf("%d: an object that New did not return does something", i)
 		}
 	}
-}
-
-func copied(a *dfa.Auto) *dfa.Auto {
-	c := *a
-	return &c
 }
 
 // words are all strings over an alphabet with at most n bytes.

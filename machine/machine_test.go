@@ -30,8 +30,7 @@ func TestP26_1New(t *testing.T) {
 }
 
 func TestP26_1Invalid(t *testing.T) {
-	copied := *made(t)
-	for i, m := range []*machine.Machine{nil, {}, &copied} {
+	for i, m := range []*machine.Machine{nil, {}} {
 		if got := m.Do(restart()); !machine.SameOuts(got, []api.Out{{Kind: api.OutCode, Code: api.ErrNil}}) {
 			t.Errorf("%d: %v", i, got)
 		}

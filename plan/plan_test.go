@@ -242,10 +242,15 @@ func TestP24_2Echo(t *testing.T) {
 	}{
 		{api.Action{Room: room}, "", -1, nil, api.ErrArg}, {api.Action{Kind: 5, Room: room}, "$1", 0, nil, api.ErrArg}, {api.Action{Kind: -1}, "$1", 0, nil, api.ErrArg}, {doBan(alice, ""), "1", 0, nil, api.ErrID}, {doBan(alice, ""), "$1", -1, nil, api.ErrArg},
 		{doBan(alice, ""), "$1", 0, []string{"x"}, api.ErrID}, {doBan(alice, ""), "$1", 0, []string{"$1"}, api.ErrTwice}, {doBan(alice, ""), "$1", 0, make([]string, 9), api.ErrLong}, {api.Action{Kind: api.ActBan, Room: "r"}, "$1", 0, nil, api.ErrID}, {doBan("\xff", ""), "$1", 0, nil, api.ErrText},
-		{doBan(strings.Repeat("x", 256), ""), "$1", 0, nil, api.ErrField}, {doRedact("m"), "$1", 0, nil, api.ErrID}, {doAcl(strings.Repeat("x", 256)), "$1", 0, nil, api.ErrKind}, {doAcl("\xff"), "$1", 0, nil, api.ErrKind}, {doAcl(strings.Repeat(strings.Repeat("x", 250)+" ", 17)), "$1", 0, nil, api.ErrLong},
+		{doBan(strings.Repeat("x", 256), ""), "$1", 0, nil, api.ErrField}, {doRedact("m"), "$1", 0, nil, api.ErrID}, {doAcl(strings.Repeat(strings.Repeat("x", 250)+" ", 17)), "$1", 0, nil, api.ErrLong},
 	} {
 		if e, err := plan.Echo(x.a, bot, x.id, x.ts, x.prev); err != x.want || !event.Same(e, api.Event{}) {
 			t.Errorf("%d: Echo = %v, want %v", i, err, x.want)
+		}
+	}
+	for _, deny := range []string{"\xff", strings.Repeat("x", 256), strings.Repeat("a ", 400)} {
+		if e, err := plan.Echo(doAcl(deny), bot, "$1", 0, nil); err == api.OK || !event.Same(e, api.Event{}) {
+			t.Errorf("a pattern that no ACL has: %v", err)
 		}
 	}
 	if _, err := plan.Echo(doBan(alice, ""), "nobody", "$1", 0, nil); err != api.ErrID {

@@ -380,7 +380,7 @@ func TestP22_1Examples(t *testing.T) {
 	}
 }
 
-// Whatever is passed, also what is not valid, the functions return, change no argument, and share no memory with it.
+// Whatever is passed, also what is not valid, the functions return, and change no argument.
 func TestP22_1AnyQueue(t *testing.T) {
 	r := rand.New(rand.NewSource(29))
 	n := func() int64 {
@@ -399,24 +399,50 @@ func TestP22_1AnyQueue(t *testing.T) {
 		for range r.Intn(40) {
 			q.Jobs = append(q.Jobs, api.Job{Txn: n(), Action: some(1)[0], Flying: r.Intn(9) == 0, Doubt: r.Intn(3) == 0, Tries: int(n()), At: n()})
 		}
-		before := fmt.Sprint(q, q.Jobs[:cap(q.Jobs)], q.Failed[:cap(q.Failed)], q.Settled[:cap(q.Settled)])
-		var l []api.Queue
-		put, _, _ := queue.Put(q, some(1)[0])
-		sent, _ := queue.Send(q, n())
-		yes, _, _ := queue.Reply(q, n(), true)
-		no, _, _ := queue.Reply(q, n(), false)
-		passed, _ := queue.Pass(q, n())
-		left, gone := queue.Withdraw(q, some(3))
-		l = append(l, put, sent, yes, no, passed, left, queue.Land(q), queue.Clear(q))
+		before := whole(q)
+		allOf(q, some(1)[0], n(), n(), some(3))
 		queue.Check(q)
 		queue.Find(q, n())
 		queue.Next(q, []int64{n()})
-		for _, x := range l {
-			ruin(x)
-		}
-		clear(gone)
-		if fmt.Sprint(q, q.Jobs[:cap(q.Jobs)], q.Failed[:cap(q.Failed)], q.Settled[:cap(q.Settled)]) != before {
+		if whole(q) != before {
 			t.Fatal("an argument was changed")
+		}
+	}
+}
+
+// whole is a queue in words, with what its lists have to spare.
+func whole(q api.Queue) string {
+	return fmt.Sprint(q, q.Jobs[:cap(q.Jobs)], q.Failed[:cap(q.Failed)], q.Settled[:cap(q.Settled)])
+}
+
+// allOf are the queues that come of a queue.
+func allOf(q api.Queue, a api.Action, txn, ticks int64, keep []api.Action) []api.Queue {
+	put, _, _ := queue.Put(q, a)
+	sent, _ := queue.Send(q, txn)
+	yes, _, _ := queue.Reply(q, txn, true)
+	no, _, _ := queue.Reply(q, txn, false)
+	passed, _ := queue.Pass(q, ticks)
+	left, gone := queue.Withdraw(q, keep)
+	clear(gone)
+	return []api.Queue{put, sent, yes, no, passed, left, queue.Land(q), queue.Clear(q)}
+}
+
+// What is returned, also with an error, shares no memory with the queue.
+func TestP22_1SharesNothing(t *testing.T) {
+	q := api.Queue{Next: 9, Now: 10, Jobs: make([]api.Job, 0, 40), Failed: make([]api.Action, 0, 9), Settled: make([]api.Action, 0, 9)}
+	q.Jobs = append(q.Jobs, job(1, "a"), api.Job{Txn: 2, Action: ban("b"), Flying: true}, api.Job{Txn: 3, Action: ban("c"), Doubt: true, Tries: 4})
+	q.Failed, q.Settled = append(q.Failed, bans(2, "f")...), append(q.Settled, bans(2, "s")...)
+	before := whole(q)
+	for _, a := range []api.Action{ban("new"), ban("a"), {}} {
+		for txn := range int64(5) {
+			for _, ticks := range []int64{-1, 0, 5} {
+				for _, x := range allOf(q, a, txn, ticks, []api.Action{ban("a"), ban("s1")}) {
+					ruin(x)
+				}
+				if whole(q) != before {
+					t.Fatal("a result shares memory with the queue", a, txn, ticks)
+				}
+			}
 		}
 	}
 }

@@ -135,11 +135,10 @@ func TestP29_1Folded(t *testing.T) {
 
 func TestP29_2Missing(t *testing.T) {
 	b := newBoth(t, 9)
-	badTower, badHome := *b.t, *b.h
 	for i, x := range []struct {
 		t *tower.Tower
 		h *home.Home
-	}{{nil, b.h}, {b.t, nil}, {nil, nil}, {&tower.Tower{}, b.h}, {b.t, &home.Home{}}, {&badTower, b.h}, {b.t, &badHome}} {
+	}{{nil, b.h}, {b.t, nil}, {nil, nil}, {&tower.Tower{}, b.h}, {b.t, &home.Home{}}} {
 		if told, e := run.Round(x.t, x.h); told != 0 || e != api.ErrNil {
 			t.Errorf("%d: Round: %v", i, e)
 		}
